@@ -237,9 +237,13 @@ func spoilCap(r *rand.Rand, c *api.Cap, other api.Cap) {
 func TestRightPiecesByChance(t *testing.T) {
 	r := rand.New(rand.NewSource(141))
 	count := map[bool]int{}
+	odd := 0 // right ones of no code
 	for n := range 60 {
 		total := 1 + r.Intn(16)
 		k := 1 + r.Intn(total)
+		if n%3 == 0 {
+			total, k = 1+r.Intn(40), 1+r.Intn(40)
+		}
 		size := r.Intn(1025)
 		length := lengthOf(size, k)
 		if r.Intn(8) == 0 {
@@ -253,13 +257,16 @@ func TestRightPiecesByChance(t *testing.T) {
 			}
 			want := otherRightPiece(s.fp, p)
 			count[want]++
+			if want && (k > total || total > 16) {
+				odd++
+			}
 			if layout.RightPiece(s.fp, p) != want {
 				t.Fatalf("%d, %d: RightPiece(%x, %s) = %v", n, m, s.fp, showPiece(p), !want)
 			}
 		}
 	}
-	if count[true] < 500 || count[false] < 500 {
-		t.Errorf("drawn are %v", count)
+	if count[true] < 500 || count[false] < 500 || odd < 100 {
+		t.Errorf("drawn are %v, %d right ones of no code", count, odd)
 	}
 }
 

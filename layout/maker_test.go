@@ -240,8 +240,8 @@ func climbs(root api.Hash, n, i int, leaf api.Hash, proof []api.Hash) bool {
 
 // lengthOf tells how long a share is of so many bytes: k of them have room for all.
 func lengthOf(size, k int) int {
-	length := 0
-	for length*k < size {
+	length := max(size, 0) / k
+	if size > 0 && size%k > 0 {
 		length++
 	}
 	return length
@@ -277,7 +277,7 @@ func otherRightShare(c api.Cap, s api.Share) (api.Ueb, bool) {
 
 func otherRightPiece(fp api.Hash, p api.Piece) bool {
 	v := p.Version
-	if v.K < 1 || v.K > v.N || v.N > 16 || len(p.Block) != lengthOf(min(v.Size, 1<<20), v.K) {
+	if v.K < 1 || len(p.Block) != lengthOf(v.Size, v.K) {
 		return false
 	}
 	return climbs(v.Root, v.N, p.Num, tagged("leaf", string(p.Block)), p.Proof) && mss.Verify(fp, []byte(otherPackVersion(v)), p.Sig)

@@ -4,7 +4,6 @@ import (
 	"aumbry/api"
 	"aumbry/caps"
 	"aumbry/mss"
-	"aumbry/rs"
 	"aumbry/tree"
 )
 
@@ -30,14 +29,10 @@ func vouched(c api.Cap, b []byte) (api.Ueb, bool) {
 
 // blocksFit says whether there is a block for each segment, as long as a share of that.
 func blocksFit(u api.Ueb, blocks [][]byte) bool {
-	shares, err := rs.New(u.K, u.N)
-	if err != api.OK {
-		return false
-	}
 	left := u.Size
 	for _, block := range blocks {
 		// Behind the last segment there is nothing left: no block stands there.
-		if left <= 0 || len(block) != shares.Length(min(left, u.Seg)) {
+		if left <= 0 || len(block) != shareLength(min(left, u.Seg), u.K) {
 			return false
 		}
 		left -= u.Seg
@@ -45,13 +40,23 @@ func blocksFit(u api.Ueb, blocks [][]byte) bool {
 	return left <= 0
 }
 
-// RightPiece tells whether fp vouches for a piece: its version is signed under fp, and it is a share of that version.
+// RightPiece tells whether fp vouches for a piece: its version is signed under fp, and under that hangs its block, as long as a share.
+// No more is asked of K and N than that: a version may be signed of which there is no code.
 func RightPiece(fp api.Hash, p api.Piece) bool {
 	v := p.Version
-	shares, err := rs.New(v.K, v.N)
-	if err != api.OK || len(p.Block) != shares.Length(v.Size) {
+	if v.K < 1 || len(p.Block) != shareLength(v.Size, v.K) {
 		return false
 	}
 	// Check refuses a Num that is none of N as well.
 	return mss.Verify(fp, PackVersion(v), p.Sig) && tree.Check(v.Root, v.N, p.Num, tree.Leaf(p.Block), p.Proof)
+}
+
+// shareLength tells how long a share is of so many bytes, k of which suffice; k is at least 1.
+// It is what rs.Length tells, which only a code can be asked; the length hangs on k alone, and stands also where no code has that k.
+func shareLength(size, k int) int {
+	if size <= 0 {
+		return 0
+	}
+	// Not size + k - 1 over k: that sum may overflow.
+	return (size-1)/k + 1
 }

@@ -258,12 +258,87 @@ func TestRightPieceBehindTheLast(t *testing.T) {
 	}
 }
 
-// A version that no code makes shares of has no pieces, though it is signed.
+// onePiece tells piece i alone of a version of these numbers whose blocks are of that length; n below 1 is hung as 1.
+func onePiece(t *testing.T, k, n, size, length, i int) (api.Hash, api.Piece) {
+	t.Helper()
+	blocks := someBlocks(max(n, 1), length, 3)
+	leaves := leavesOf(blocks)
+	v := versionOf(1, k, n, size)
+	v.Root = above(leaves)
+	fp, sig := signed(t, 0, 0, v)
+	return fp, api.Piece{Num: i, Version: v, Sig: sig, Proof: beside(leaves, i), Block: blocks[i]}
+}
+
+// holdLengths holds of piece i whose blocks are as long as they are to be, or by one longer or shorter, whether it is right.
+func holdLengths(t *testing.T, k, n, size, length, i int) {
+	t.Helper()
+	for by := -1; by <= 1; by++ {
+		if length+by < 0 {
+			continue
+		}
+		fp, p := onePiece(t, k, n, size, length+by, i)
+		holdPiece(t, fmt.Sprintf("piece %d, %d of %d, size %d, a block of %d bytes", i, k, n, size, length+by), fp, p, by == 0)
+	}
+}
+
+// A piece is right though there is no code of K of N: K is above N, or N (and K) above MaxShares.
 func TestRightPieceOfNoCode(t *testing.T) {
-	for _, of := range [][2]int{{0, 1}, {0, 0}, {2, 1}, {3, 2}, {16, 15}, {17, 16}, {17, 17}, {1, 17}, {16, 17}, {-1, 1}, {1, -1}, {-1, -1}, {-2, 16}, {1, 257}, {256, 256}, {257, 257}} {
-		for _, size := range []int{0, 34} {
-			s := slotOf(t, versionOf(1, of[0], of[1], size), someBlocks(max(of[1], 1), lengthOf(size, max(of[0], 1)), 1), 0, 0)
-			holdPiece(t, fmt.Sprintf("%d of %d", of[0], of[1]), s.fp, s.pieces[0], false)
+	for _, of := range [][2]int{
+		{2, 1}, {3, 1}, {3, 2}, {5, 4}, {16, 1}, {16, 15}, {17, 1}, {17, 16}, {255, 16}, {256, 3}, {257, 2},
+		{1, 17}, {2, 17}, {16, 17}, {17, 17}, {18, 17}, {17, 20}, {1, 32}, {33, 33}, {7, 128}, {1, 255}, {256, 255}, {3, 256}, {256, 256}, {257, 256},
+		{65536, 5}, {1 << 31, 2}, {1 << 40, 2}, {1 << 62, 18}, {1<<63 - 1, 1}, {1<<63 - 1, 20},
+	} {
+		k, n := of[0], of[1]
+		for _, size := range []int{0, 1, 34, 1024} {
+			holdLengths(t, k, n, size, lengthOf(size, k), n-1)
+		}
+		holdLengths(t, k, n, 40, lengthOf(40, k), 0)
+		holdLengths(t, k, n, 41, lengthOf(41, k), n/2)
+	}
+}
+
+// There is no length where K is below 1, there are no pieces where N is, and there is no way up from one of more than 256 leaves.
+func TestRightPieceOfNoLengthOrLeaf(t *testing.T) {
+	for _, of := range [][2]int{{0, 1}, {0, 0}, {-1, 1}, {0, 16}, {-2, 16}, {-16, 17}, {1, 0}, {1, -1}, {3, -1}, {-1, -1}, {1, 257}, {256, 257}, {257, 257}, {3, 512}} {
+		k, n := of[0], of[1]
+		for _, size := range []int{-1, 0, 1, 34} {
+			for _, length := range []int{0, 1, 34, lengthOf(size, max(k, 1))} {
+				fp, p := onePiece(t, k, n, size, length, 0)
+				holdPiece(t, fmt.Sprintf("%d of %d, size %d, a block of %d bytes", k, n, size, length), fp, p, false)
+			}
+		}
+	}
+}
+
+// Spoilt pieces are not right either where there is no code of K of N.
+func TestRightPieceOfNoCodeSpoilt(t *testing.T) {
+	for _, of := range [][2]int{{3, 2}, {17, 18}} {
+		fp, p := onePiece(t, of[0], of[1], 40, lengthOf(40, of[0]), of[1]-1)
+		holdPiece(t, "as it was made", fp, p, true)
+		pieceChanges(p, func(why string, other api.Piece) {
+			holdPiece(t, why, fp, other, false)
+		})
+		holdPiece(t, "no print", api.Hash{}, p, false)
+	}
+	// Nor are there pieces behind the last one.
+	for _, of := range [][2]int{{5, 3}, {1, 17}, {40, 33}} {
+		s := slotOf(t, versionOf(1, of[0], of[1], 10), someBlocks(len(filled(make([]api.Hash, of[1]))), lengthOf(10, of[0]), 1), 0, 0)
+		for i, p := range s.pieces {
+			holdPiece(t, fmt.Sprintf("piece %d, %d of %d", i, of[0], of[1]), s.fp, p, i < of[1])
+		}
+	}
+}
+
+// Where Size or K is far more than there may be, and where Size is below 0.
+func TestRightPieceOfFarSizes(t *testing.T) {
+	const most = 1<<63 - 1
+	for _, of := range [][3]int{ // size, K, and the length
+		{-1, 1, 0}, {-1, 3, 0}, {-34, 17, 0}, {-1 << 63, 1, 0}, {-1 << 63, most, 0},
+		{0, most, 0}, {1, most, 1}, {1025, 2, 513}, {1025, 1025, 1}, {1026, 1025, 2}, {1 << 20, 1 << 10, 1 << 10},
+		{1 << 31, 1 << 31, 1}, {1<<31 + 1, 1 << 31, 2}, {1 << 32, 1 << 30, 4}, {most, most, 1}, {most, most - 1, 2}, {most, 1 << 62, 2}, {1 << 62, 1 << 62, 1}, {1<<62 + 1, 1 << 62, 2}, {most, 1 << 58, 32},
+	} {
+		for _, n := range []int{1, 2, 17} {
+			holdLengths(t, of[1], n, of[0], of[2], n-1)
 		}
 	}
 }
